@@ -126,6 +126,9 @@ func TestLabel(t *testing.T) {
 	want(t, x, "publish b@2.4.0 let f = \"a\"; export f;", api.Answer{Err: api.ErrLabel, Gap: api.GapMajor, Change: api.Change{Kind: api.ChangeType, Name: "f"}, Text: "import P = b@2.4.0;\nlet w : text = P.f;\n"})
 	want(t, x, "publish b@2.4.9 let f = 1; let k = 1; export f; export k;", api.Answer{Err: api.ErrLabel, Gap: api.GapMajor, Change: api.Change{Kind: api.ChangeGone, Name: "k"}, Text: "import P = b@2.4.9;\nlet w = P.k;\n"})
 	want(t, x, "publish b@2.5.1 ", api.Answer{Err: api.ErrLabel, Gap: api.GapMajor, Change: api.Change{Kind: api.ChangeGone, Name: "f"}, Text: "import P = b@2.5.1;\nlet w = P.f;\n"})
+	// The lower one allows it, the one above does not.
+	want(t, x, "publish a@1.5.0 let f = 1; let g = 1; let z = 1; export g; export f; export z;", api.Answer{})
+	want(t, x, "publish a@1.3.0 let f = 1; let g = 1; let k = 1; export g; export f; export k;", api.Answer{Err: api.ErrLabel, Gap: api.GapMajor, Change: api.Change{Kind: api.ChangeGone, Name: "k"}, Text: "import P = a@1.3.0;\nlet w = P.k;\n"})
 	// Of two that don't allow it the lower one is told.
 	want(t, x, "publish a@1.0.6 let g = 1; export g;", api.Answer{Err: api.ErrLabel, Gap: api.GapMajor, Change: api.Change{Kind: api.ChangeGone, Name: "f"}, Text: "import P = a@1.0.6;\nlet w = P.f;\n"})
 }
