@@ -8,30 +8,26 @@ import (
 
 func isAny(p api.Term) bool { return p.Kind == api.PaAny || p.Kind == api.PaVar }
 
-// isAlike tells whether two patterns that don't take any take values of one kind, with as many parts.
-func isAlike(a, b api.Term) bool {
-	if a.Kind != b.Kind {
+// isAlike tells whether a pattern that does not take any takes values of the same kind as another one that has so many parts.
+func isAlike(p, other *api.Term, parts int) bool {
+	if p.Kind != other.Kind {
 		return false
 	}
-	switch a.Kind {
-	case api.PaInt:
-		return a.N == b.N
-	case api.PaText:
-		return a.Name == b.Name
-	case api.PaCon:
-		if a.Pkg != b.Pkg || a.Name != b.Name {
+	switch p.Kind {
+	case api.PaInt, api.PaText, api.PaCon:
+		if p.N != other.N || p.Name != other.Name || p.Pkg != other.Pkg {
 			return false
 		}
 		fallthrough
 	case api.PaTuple:
-		return len(a.Kids) == len(b.Kids)
+		return len(p.Kids) == parts
 	}
 	return false
 }
 
 // takesSome tells whether a pattern takes a value: each one does.
 func takesSome(p api.Term) bool {
-	if !isAny(p) && !isAlike(p, p) {
+	if !isAny(p) && !isAlike(&p, &p, len(p.Kids)) {
 		return false
 	}
 	for _, k := range p.Kids {

@@ -275,7 +275,7 @@ func TestJustSteps(t *testing.T) {
 
 // P1: patterns of no one type, and what is none, end too.
 func TestAnything(t *testing.T) {
-	odd := append(patterns(t, "1 | \"a\" | () | (_, _) | (1, 2, 3) | Nil | Nil(_) | Cons(_) | Cons(_, _, _) | Other(1) | Other | _ | Red | Leaf | Cons(1, 2)"), api.Term{}, api.Term{Kind: 99}, api.Term{Kind: api.ExInt}, api.Term{Kind: api.PaTuple, Kids: make([]api.Term, 2)}, api.Term{Kind: math.MinInt, Kids: []api.Term{{Kind: api.PaAny}}})
+	odd := append(patterns(t, "1 | \"a\" | () | (_, _) | (1, 2, 3) | Nil | Nil(_) | Cons(_) | Cons(_, _, _) | Other(1) | Other | _ | Red | Leaf | Cons(1, 2)"), api.Term{}, api.Term{Kind: 99}, api.Term{Kind: api.ExInt}, api.Term{Kind: api.PaTuple, Kids: make([]api.Term, 2)}, api.Term{Kind: math.MinInt, Kids: []api.Term{{Kind: api.PaAny}}}, api.Term{Kind: api.PaText, Kids: make([]api.Term, 1)}, api.Term{Kind: api.PaText}, api.Term{Kind: api.PaInt, Kids: make([]api.Term, 2)}, api.Term{Kind: api.PaInt}, api.Term{Kind: api.PaAny, Kids: make([]api.Term, 1)})
 	deep := api.Term{Kind: api.PaAny}
 	for range 60000 {
 		deep = api.Term{Kind: api.PaCon, Name: "Cons", Kids: []api.Term{{Kind: api.PaAny}, deep}}

@@ -93,7 +93,7 @@ func (h head) behind(rows []row) []row {
 			l = append(l, append(row(h.parts[:len(h.parts):len(h.parts)]), r[1:]...))
 			continue
 		}
-		if r[0].Kind != h.Kind || r[0].N != h.N || r[0].Name != h.Name || r[0].Pkg != h.Pkg || len(r[0].Kids) != len(h.parts) {
+		if !isAlike(r[0], &h.Term, len(h.parts)) {
 			continue
 		}
 		var next row
