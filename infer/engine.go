@@ -3,7 +3,6 @@ package infer
 import (
 	"touchstone/api"
 	"touchstone/scheme"
-	"touchstone/term"
 	"touchstone/unify"
 )
 
@@ -110,15 +109,4 @@ func (e *engine) told(id int) (api.Term, api.Errno) {
 		return api.Term{}, api.ErrLimit
 	}
 	return scheme.Canon(t), api.OK
-}
-
-// toldLet is what was found of a let, whose type may be told.
-func (e *engine) toldLet(x api.Let, id int) (api.Term, api.Errno) {
-	if len(x.Ann) == 0 || e.err != api.OK {
-		return e.told(id)
-	}
-	if e.Full() || term.Size(x.Ann[0]) > api.MaxType {
-		return api.Term{}, api.ErrLimit
-	}
-	return scheme.Canon(x.Ann[0]), api.OK
 }

@@ -1,6 +1,7 @@
 package infer_test
 
 import (
+	"fmt"
 	"testing"
 
 	"touchstone/api"
@@ -82,6 +83,15 @@ func TestModuleLimit(t *testing.T) {
 	wantModule(t, "let y = match x with _ -> 1 end; let x = "+tuple(3)+";", "y : int; x : (int, int, int)")
 	for _, s := range []string{"let y = 1 1;", "let y : 'a = 1;", "let y = match x with 1 -> 1 end;", "let y = (x : int);"} {
 		wantNoModule(t, api.ErrType, "let x = "+huge(12)+";"+s, s+"let x = "+huge(12)+";")
+	}
+	// Lets that take more types than a store has, or just their great ones: what has no types is told ahead of it.
+	many := "let p0 = fun x -> x;"
+	for i := range 25 {
+		many += fmt.Sprintf("let p%d = (p%d, p%d);", i+1, i, i)
+	}
+	wantNoModule(t, api.ErrLimit, many, many+"let z = match p25 with _ -> 1 end;", many+"let f : int -> int = fun x -> match p25 with _ -> x end;")
+	for _, s := range []string{"let z = 1 1;", "let z = fun x -> x x; let y = z;", "let z : 'a = 1;", "let a = fun x -> b (1 x); let b = fun x -> a x;"} {
+		wantNoModule(t, api.ErrType, many+s, s+many, many+"let q = p25;"+s)
 	}
 	// Of a let with an Ann that is what is told; also of one that is too much.
 	for n := api.MaxType - 1; n <= api.MaxType+1; n++ {
