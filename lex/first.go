@@ -49,11 +49,13 @@ func firstName(s string, kind int) (api.Token, int) {
 
 func firstVar(s string) (api.Token, int) {
 	name := strings.TrimPrefix(s, mark)
-	n := count(name, func(c byte) bool { return isNameByte(c) && c != mark[0] })
-	if n == 0 || n > api.MaxIdent || !isSmall(name[0]) {
+	name = name[:count(name, func(c byte) bool { return isNameByte(c) && c != mark[0] })]
+	// As of other names, all of the token counts, with the mark that its Text leaves out.
+	n := len(mark) + len(name)
+	if name == "" || n > api.MaxIdent || !isSmall(name[0]) {
 		return api.Token{}, 0
 	}
-	return api.Token{Kind: api.TokVar, Text: strings.Clone(name[:n])}, len(mark) + n
+	return api.Token{Kind: api.TokVar, Text: strings.Clone(name)}, n
 }
 
 func firstNumber(s string) (api.Token, int) {

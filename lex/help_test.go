@@ -124,6 +124,7 @@ func read(kind int, told string) (api.Token, bool) {
 		}
 	case api.TokVar:
 		t.Text = told[1:]
+		return t, len(told) <= most
 	case api.TokInt:
 		t.Text = ""
 		t.N, _ = strconv.Atoi(told)
@@ -204,7 +205,7 @@ func someToken(d *rand.Rand) api.Token {
 	case api.TokUpper:
 		return token(kind, 0, some(d, greatLetters, 1, 1)+some(d, nameBytes, 0, 29))
 	case api.TokVar:
-		return token(kind, 0, some(d, smallLetters, 1, 1)+some(d, strings.Trim(nameBytes, "'"), 0, 29))
+		return token(kind, 0, some(d, smallLetters, 1, 1)+some(d, strings.Trim(nameBytes, "'"), 0, 28))
 	case api.TokInt:
 		return number(0, someInt(d))
 	case api.TokText:

@@ -149,7 +149,7 @@ func TestNames(t *testing.T) {
 	wantForm(t, "'a'", 2)
 }
 
-// P6.1: names of MaxIdent bytes, and of one more.
+// P6.1: names of MaxIdent bytes, and of one more; of a variable the ' ahead counts, too.
 func TestNamesLong(t *testing.T) {
 	for _, rest := range []string{"a", "Z", "0", "_", "'"} {
 		s := strings.Repeat(rest, 29)
@@ -161,11 +161,15 @@ func TestNamesLong(t *testing.T) {
 		wantForm(t, "= _"+s+rest+";", 2)
 		wantForm(t, "let"+s, 0)
 		if rest != "'" {
-			wantLex(t, "= 'x"+s+";", sign(0, "="), variable(2, "x"+s), sign(33, ";"))
-			wantLex(t, "'x"+s+"'x"+s, variable(0, "x"+s), variable(31, "x"+s))
-			wantForm(t, "= 'x"+s+rest+";", 2)
+			name := "x" + s[1:]
+			wantLex(t, "= '"+name+";", sign(0, "="), variable(2, name), sign(32, ";"))
+			wantLex(t, "'"+name+"'"+name, variable(0, name), variable(30, name))
+			wantForm(t, "= '"+name+rest+";", 2)
+			wantForm(t, "'"+name+"'"+name+rest, 30)
+			wantForm(t, "'"+name+rest+"'"+name, 0)
 		}
 	}
+	wantForm(t, "'a '"+strings.Repeat("a", 30), 3)
 	for _, n := range []int{31, 40, 100, 1000, 19000} {
 		wantForm(t, strings.Repeat("a", n), 0)
 		wantForm(t, "A "+strings.Repeat("A", n), 2)

@@ -51,7 +51,7 @@ func TestRightNames(t *testing.T) {
 		wantRight(t, upper(0, s))
 		wantWrong(t, lower(0, s), variable(0, s), key(0, s), sign(0, s), version(0, s))
 	}
-	for _, s := range []string{"a", "z", "ab", "a_", "aA", "a0", "let", "type", "a" + long} {
+	for _, s := range []string{"a", "z", "ab", "a_", "aA", "a0", "let", "type", long} {
 		wantRight(t, variable(0, s))
 		wantWrong(t, upper(0, s), sign(0, s), version(0, s))
 	}
@@ -61,7 +61,7 @@ func TestRightNames(t *testing.T) {
 	for _, s := range []string{"A ", " A", "A B", "A\n", "A.B", "A-", "'A", "Aä", "A" + long + "a", "A\x00"} {
 		wantWrong(t, lower(0, s), upper(0, s), variable(0, s), key(0, s), sign(0, s), version(0, s))
 	}
-	wantWrong(t, variable(0, "_"), variable(0, "_a"), variable(0, "a'"), variable(0, "a'b"), variable(0, "a"+long+"a"), lower(0, "_"))
+	wantWrong(t, variable(0, "_"), variable(0, "_a"), variable(0, "a'"), variable(0, "a'b"), variable(0, "a"+long), variable(0, "a"+long+"a"), lower(0, "_"))
 }
 
 // P6.2: each keyword is a right one, and no name; each sign is a sign alone.

@@ -31,6 +31,15 @@ func TestType(t *testing.T) {
 	wantType(t, "t((int))", tc("t", tc("int")))
 }
 
+// P8.2: a variable has, with its ', MaxIdent bytes at most; at a longer one lex's error is told.
+func TestTypeVariablesLong(t *testing.T) {
+	name := strings.Repeat("a", api.MaxIdent-1)
+	wantType(t, "'"+name, tv(name))
+	wantType(t, "t('"+name+", 'a)", tc("t", tv(name), tv("a")))
+	wantForm(t, readType, "!'"+name+"a", "t('a, !'"+name+"a)")
+	wantForm(t, readModule, "type t(!'"+name+"a) = A;", "alias t('"+name+") = !'"+name+"a;")
+}
+
 // P8.2: what is no type, and what stands behind one.
 func TestTypeFaults(t *testing.T) {
 	wantForm(t, readType, "!", " !", "-- a\n!", "!1", "!\"a\"", "!1.0.0", "!let", "!_", "!->", "!)", "!=", "P!", "P!(int)", "P !t", "P.!", "P.!T", "P.!'a", "P.!Q.t", "T!", "(!", "(int!", "(int,!", "(int,!)", "(!,int)", "(int !int)", "(int ->!)", "t(!)", "t(!,", "t(int,!)", "t(int!", "t(int)!(int)", "'a!(int)", "'a ->!", "'a -> !-> 'b", "'a !'b", "int !int", "int !;", "()!()", "() !)", "int!, int", "'a!.b", "t!.u", "P.t!.u", "(int !: int)", "t(!_)", "int != int", "int -> !1", "(int) !x")

@@ -74,8 +74,8 @@ var (
 	rightLowers = []string{"a", "_a", "a'", "int", "text", "rect", strings.Repeat("a", 30), "__"}
 	wrongUppers = []string{"", "a", "_", "_A", "A B", "A.B", "'A", "1", "A-", "Ä", "A\n", "A" + longName, "let"}
 	rightUppers = []string{"A", "A'", "Let", "A_0", strings.Repeat("A", 30)}
-	wrongVars   = []string{"", "A", "_", "_a", "a'", "'a", "1", "a b", "ä", longName, "a\n"}
-	rightVars   = []string{"a", "a_", "let", "aB0", "type", strings.Repeat("a", 30)}
+	wrongVars   = []string{"", "A", "_", "_a", "a'", "'a", "1", "a b", "ä", strings.Repeat("a", 30), longName, "a\n"}
+	rightVars   = []string{"a", "a_", "let", "aB0", "type", strings.Repeat("a", 29)}
 )
 
 // wantEach puts each text into a right module at each of two places, and asks whether it is right then.

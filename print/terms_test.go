@@ -21,6 +21,10 @@ func TestType(t *testing.T) {
 	} {
 		wantText(t, print.Type(x), wanted)
 	}
+	// A variable's text, with the ' ahead, has MaxIdent bytes at most.
+	name := strings.Repeat("a", api.MaxIdent-1)
+	wantText(t, print.Type(tc("t", tv(name))), "t('"+name+")")
+	wantText(t, print.Type(tc("t", tv(name+"a"))), "")
 }
 
 // P9.1: patterns of each kind.

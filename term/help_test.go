@@ -74,7 +74,7 @@ func mayLower(s string) bool {
 	return lowerForm.MatchString(s) && len(s) <= 30 && !slices.Contains(keywords, s)
 }
 func mayUpper(s string) bool { return upperForm.MatchString(s) && len(s) <= 30 }
-func mayVar(s string) bool   { return varForm.MatchString(s) && len(s) <= 30 }
+func mayVar(s string) bool   { return varForm.MatchString(s) && len("'"+s) <= 30 }
 func maySay(s string) bool   { return textForm.MatchString(s) && len(s) <= maxText }
 
 // names are right and wrong ones, of each kind of tokens.

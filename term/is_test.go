@@ -22,9 +22,9 @@ func wantKind(t *testing.T, wanted string, l ...api.Term) {
 
 // P7.1: types of each kind.
 func TestTypes(t *testing.T) {
-	wantKind(t, "t", tv("a"), tv("a1"), tv("let"), tc("int"), tc("_t'"), in("P", tc("t")), in("P'_0", tc("t")), tc("list", tv("a")), tc("t", tv("a"), tv("b"), tc("int"), tt()))
+	wantKind(t, "t", tv("a"), tv("a1"), tv("let"), tv(strings.Repeat("a", 29)), tc("int"), tc("_t'"), in("P", tc("t")), in("P'_0", tc("t")), tc("list", tv("a")), tc("t", tv("a"), tv("b"), tc("int"), tt()))
 	wantKind(t, "t", arrow(tv("a"), tv("b")), arrow(arrow(tc("int"), tt()), tv("a")), tt(), tt(tv("a"), tv("a")), tt(tt(), tt(), tt()), tt(tv("a"), tv("b"), tv("c"), tv("d")))
-	wantKind(t, "-", tv(""), tv("A"), tv("_a"), tv("a'"), tv("'a"), in("P", tv("a")), rec(tv("a")), of(api.TyVar, "a", tv("b")), tv(strings.Repeat("a", 31)))
+	wantKind(t, "-", tv(""), tv("A"), tv("_a"), tv("a'"), tv("'a"), in("P", tv("a")), rec(tv("a")), of(api.TyVar, "a", tv("b")), tv(strings.Repeat("a", 30)), tc("list", tv(strings.Repeat("a", 30))), tv(strings.Repeat("a", 31)))
 	wantKind(t, "-", tc(""), tc("T"), tc("_"), tc("let"), tc("a b"), in("p", tc("t")), in("", tc("T")), in("P.Q", tc("t")), in(" ", tc("t")), rec(tc("t")), tc("list", pv("a")), tc("list", tv("a"), ev("x")), tc("t", tt(tv("a"))))
 	wantKind(t, "-", of(api.TyFun, ""), of(api.TyFun, "", tv("a")), of(api.TyFun, "", tv("a"), tv("b"), tv("c")), of(api.TyFun, "a", tv("a"), tv("b")), in("P", arrow(tv("a"), tv("b"))), rec(arrow(tv("a"), tv("b"))), arrow(tv("a"), pv("b")), arrow(ev("a"), tv("b")))
 	wantKind(t, "-", tt(tv("a")), of(api.TyTuple, "a"), in("P", tt()), rec(tt()), tt(tv("a"), pv("b")), tt(ev("a"), tv("b")), tt(tv("a"), tv("A")))
